@@ -1,7 +1,6 @@
 package amount
 
 import (
-	"math"
 	"regexp"
 	"strconv"
 	"strings"
@@ -9,22 +8,8 @@ import (
 
 	"cardgame/api"
 	"cardgame/filter"
+	"cardgame/probe"
 )
-
-// numbers returns numbers at the borders of all fields and of int.
-func numbers() []int {
-	list := []int{math.MinInt, math.MinInt + 1, math.MaxInt - 1, math.MaxInt}
-	for n := -12; n < 140; n++ {
-		list = append(list, n)
-	}
-	for i := 8; i < 63; i++ {
-		list = append(list, 1<<i-1, 1<<i, 1<<i+1, 1<<i+2, -1<<i, -1<<i+1)
-	}
-	for _, n := range []int{999998, 999999, 1000000, 1000001, 1000002} {
-		list = append(list, n, -n)
-	}
-	return list
-}
 
 // goodFilters returns valid filters by their texts.
 func goodFilters() map[string]api.Filter {
@@ -95,7 +80,7 @@ func checkIs(t *testing.T, a api.Amount, want bool) {
 }
 
 func TestIsOfKinds(t *testing.T) { // P14.1
-	for _, kind := range numbers() {
+	for _, kind := range probe.Numbers() {
 		checkIs(t, api.Amount{Kind: kind}, 0 <= kind && kind <= 7 && kind != api.ACount)
 		checkIs(t, api.Amount{Kind: kind, N: 1}, kind == api.AConst || kind == api.ACount)
 		checkIs(t, api.Amount{Kind: kind, Counter: 1}, kind == api.ACounters)
@@ -104,7 +89,7 @@ func TestIsOfKinds(t *testing.T) { // P14.1
 }
 
 func TestIsOfNumbers(t *testing.T) { // P14.1
-	for _, n := range numbers() {
+	for _, n := range probe.Numbers() {
 		checkIs(t, api.Amount{N: n}, 0 <= n && n <= 1000000)
 		checkIs(t, api.Amount{Kind: api.ACounters, Counter: n}, 0 <= n && n <= 2)
 		for _, f := range goodFilters() {
@@ -119,7 +104,7 @@ func TestIsOfNumbers(t *testing.T) { // P14.1
 func TestIsOfUnusedFields(t *testing.T) { // P14.1
 	check := func(good api.Amount, _ string) {
 		checkIs(t, good, true)
-		for _, n := range numbers() {
+		for _, n := range probe.Numbers() {
 			a := good
 			a.N = n
 			if good.Kind != api.AConst && good.Kind != api.ACount {
@@ -227,35 +212,19 @@ func TestParseOfPieces(t *testing.T) {
 // P14.2: every text that differs in one place from that of some amounts.
 func TestParseNearby(t *testing.T) {
 	check := parseChecker(t)
-	symbols := append(strings.Split("+ - , : = * ( ) [ ] a e s t x X 0 1 2 9 . é \x00 \xff", " "), " ", "\n", "\t", "")
 	texts := []string{"0", "7", "10", "100", "999999", "1000000", "count(any)", "2*count(any)", "10*count(self)", "99*count(in-hand yours sub:fox power>=3)"}
 	eachWords(func(_ api.Amount, text string) { texts = append(texts, text) })
 	for text := range goodFilters() {
 		texts = append(texts, "count("+text+")", "12*count("+text+")")
 	}
 	for _, text := range texts {
-		check(strings.ToUpper(text))
-		check(text + text)
-		check(text + "*" + text)
-		for i := range len(text) + 1 {
-			check(text[:i])
-			check(text[i:])
-			for _, s := range symbols {
-				check(text[:i] + s + text[i:])
-				if i < len(text) {
-					check(text[:i] + s + text[i+1:])
-				}
-			}
-			if i+1 < len(text) {
-				check(text[:i] + text[i+1:i+2] + text[i:i+1] + text[i+2:])
-			}
-		}
+		probe.Neighbours(check, text)
 	}
 }
 
 func TestParseFactors(t *testing.T) { // P14.2
 	check := parseChecker(t)
-	for _, n := range numbers() {
+	for _, n := range probe.Numbers() {
 		s := strconv.Itoa(n)
 		check(s)
 		check(s + "*count(any)")

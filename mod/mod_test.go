@@ -11,19 +11,8 @@ import (
 
 	"cardgame/api"
 	"cardgame/filter"
+	"cardgame/probe"
 )
-
-// numbers returns numbers at the borders of all fields and of int.
-func numbers() []int {
-	list := []int{math.MinInt, math.MinInt + 1, math.MaxInt - 1, math.MaxInt, 999999, 1000000, 1000001, -999999, -1000000, -1000001}
-	for n := -140; n < 140; n++ {
-		list = append(list, n)
-	}
-	for i := 8; i < 63; i++ {
-		list = append(list, 1<<i-1, 1<<i, 1<<i+1, -1<<i, -1<<i+1)
-	}
-	return list
-}
 
 // typeWords returns the words of the types in the order of the bits.
 func typeWords() []string {
@@ -224,7 +213,7 @@ func TestIsOfFields(t *testing.T) {
 	}
 	for _, good := range list {
 		checkIs(t, good)
-		for _, n := range numbers() {
+		for _, n := range probe.Numbers() {
 			m := good
 			m.Kind = n
 			checkIs(t, m)
@@ -344,79 +333,45 @@ func parseChecker(t *testing.T) func(s string) {
 	}
 }
 
-// extend calls check with s followed by all sequences of up to left pieces.
-func extend(check func(s string), s string, left int, pieces []string) {
-	check(s)
-	if left == 0 {
-		return
-	}
-	for _, piece := range pieces {
-		extend(check, s+piece, left-1, pieces)
-	}
-}
-
 // P15.1: every text of up to four pieces of texts, and longer ones behind some beginnings.
 func TestParseOfPieces(t *testing.T) {
 	check := parseChecker(t)
-	extend(check, "", 4, []string{"control", "blank", "types", "sub", "colors", "keys", "pt", "=", "+", "-", "switch", "count", "none", "land", "haste", "jet", "0", "/"})
+	probe.Extend(check, "", 4, []string{"control", "blank", "types", "sub", "colors", "keys", "pt", "=", "+", "-", "switch", "count", "none", "land", "haste", "jet", "0", "/"})
 	for _, start := range []string{"types=", "types+="} {
-		extend(check, start, 5, []string{"creature", "relic", "charm", "land", "instant", "+", "none"})
+		probe.Extend(check, start, 5, []string{"creature", "relic", "charm", "land", "instant", "+", "none"})
 	}
 	for _, start := range []string{"colors=", "colors+=", "keys=", "keys+=", "keys-="} {
-		extend(check, start, 4, []string{"amber", "jet", "ruby", "none", "+", "flying", "haste", "must-attack"})
+		probe.Extend(check, start, 4, []string{"amber", "jet", "ruby", "none", "+", "flying", "haste", "must-attack"})
 	}
 	for _, start := range []string{"pt", "pt=", "pt+=", "pt-="} {
-		extend(check, start, 6, []string{"0", "1", "9", "-", "+", "/"})
+		probe.Extend(check, start, 6, []string{"0", "1", "9", "-", "+", "/"})
 	}
-	extend(check, "pt=count", 4, []string{"(", ")", "any", "yours", "land", " ", "1", "/", "count"})
-	extend(check, "pt=", 3, []string{"count(", ")", "any", "2*", "x", "power", "1", "/"})
-	extend(check, "sub", 5, []string{"=", "+", "-", "a", "land", "0", " "})
-}
-
-// eachNeighbour calls check with texts that differ from text in one place, and with some larger ones.
-func eachNeighbour(text string, check func(s string)) {
-	symbols := append(strings.Split("+ - , : = * / ( ) [ ] a e s t x X 0 1 9 . é \x00 \xff", " "), " ", "\n", "\t", "", ", ")
-	check(strings.ToUpper(text))
-	check(text + text)
-	check(text + "," + text)
-	check(text + ", " + text)
-	check(text + "+" + text)
-	for i := range len(text) + 1 {
-		check(text[:i])
-		check(text[i:])
-		for _, s := range symbols {
-			check(text[:i] + s + text[i:])
-			if i < len(text) {
-				check(text[:i] + s + text[i+1:])
-			}
-		}
-		if i+1 < len(text) {
-			check(text[:i] + text[i+1:i+2] + text[i:i+1] + text[i+2:])
-		}
-	}
+	probe.Extend(check, "pt=count", 4, []string{"(", ")", "any", "yours", "land", " ", "1", "/", "count"})
+	probe.Extend(check, "pt=", 3, []string{"count(", ")", "any", "2*", "x", "power", "1", "/"})
+	probe.Extend(check, "sub", 5, []string{"=", "+", "-", "a", "land", "0", " "})
 }
 
 func TestParseNearby(t *testing.T) { // P15.1
 	check := parseChecker(t)
 	for text := range samples() {
-		eachNeighbour(text, check)
+		probe.Neighbours(check, text)
 	}
 	for text := range goodFilters() {
-		eachNeighbour("pt=count("+text+")", check)
+		probe.Neighbours(check, "pt=count("+text+")")
 	}
 	for _, s := range slices.Concat(goodSubs(), badSubs()) {
 		check("sub=" + s)
 		check("sub+=" + s)
 		check("sub-=" + s)
 	}
-	eachNeighbour("types+="+joined(typeWords(), api.Permanent), check)
-	eachNeighbour("colors="+joined(colorNames(), api.AllColors), check)
-	eachNeighbour("keys+="+joined(keyNames(), api.AllKeys), check)
+	probe.Neighbours(check, "types+="+joined(typeWords(), api.Permanent))
+	probe.Neighbours(check, "colors="+joined(colorNames(), api.AllColors))
+	probe.Neighbours(check, "keys+="+joined(keyNames(), api.AllKeys))
 }
 
 func TestParseNumbers(t *testing.T) { // P15.1
 	check := parseChecker(t)
-	for _, n := range numbers() {
+	for _, n := range probe.Numbers() {
 		s := strconv.Itoa(n)
 		for _, start := range []string{"pt=", "pt+=", "pt-="} {
 			check(start + s)
@@ -558,20 +513,20 @@ func listChecker(t *testing.T) func(s string) {
 
 func TestParseListOfPieces(t *testing.T) { // P15.2
 	check := listChecker(t)
-	extend(check, "", 6, []string{"control", "pt=1/1", "blank", ", ", ",", " ", "pt=count(any)"})
-	extend(check, "blank, blank, blank, blank", 5, []string{"blank", ", ", ",", " ", "sub=a"})
+	probe.Extend(check, "", 6, []string{"control", "pt=1/1", "blank", ", ", ",", " ", "pt=count(any)"})
+	probe.Extend(check, "blank, blank, blank, blank", 5, []string{"blank", ", ", ",", " ", "sub=a"})
 }
 
 func TestParseListNearby(t *testing.T) { // P15.2
 	check := listChecker(t)
 	texts, _ := sampleList()
 	for _, text := range texts {
-		eachNeighbour(text, check)
-		eachNeighbour("pt+=1/-1, "+text, check)
-		eachNeighbour(text+", pt=count(yours land), sub=a", check)
+		probe.Neighbours(check, text)
+		probe.Neighbours(check, "pt+=1/-1, "+text)
+		probe.Neighbours(check, text+", pt=count(yours land), sub=a")
 	}
-	eachNeighbour(strings.Join(texts[:6], ", "), check)
-	eachNeighbour(strings.Join(texts[:7], ", "), check)
+	probe.Neighbours(check, strings.Join(texts[:6], ", "))
+	probe.Neighbours(check, strings.Join(texts[:7], ", "))
 }
 
 func TestParseListRejects(t *testing.T) { // P15.2
@@ -597,7 +552,7 @@ func TestParseListSharesNothing(t *testing.T) { // P15.2
 
 func TestStage(t *testing.T) { // P15.1
 	stages := map[int]int{1: 1, 2: 2, 3: 2, 4: 2, 5: 2, 6: 3, 7: 3, 8: 4, 9: 4, 10: 4, 11: 5, 12: 6, 13: 7, 14: 8}
-	for _, kind := range numbers() {
+	for _, kind := range probe.Numbers() {
 		if got := Stage(kind); got != stages[kind] {
 			t.Errorf("Stage(%d) = %d, want %d", kind, got, stages[kind])
 		}
@@ -716,7 +671,7 @@ func TestApply(t *testing.T) {
 }
 
 func TestApplySums(t *testing.T) { // P15.3
-	for _, power := range numbers() {
+	for _, power := range probe.Numbers() {
 		for _, n := range []int{-99, -1, 0, 1, 99} {
 			got := Apply(api.Traits{Power: power, Tough: -1}, api.Mod{Kind: api.MAddPT, N: n, M: -n}, 0, 0)
 			if got.Power != clamped(clamped(power)+n) || got.Tough != -1-n {

@@ -10,19 +10,8 @@ import (
 
 	"cardgame/api"
 	"cardgame/filter"
+	"cardgame/probe"
 )
-
-// numbers returns numbers at the borders of all fields and of int.
-func numbers() []int {
-	list := []int{math.MinInt, math.MinInt + 1, math.MaxInt - 1, math.MaxInt, 999999, 1000000, 1000001, -999999, -1000000, -1000001}
-	for n := -20; n < 140; n++ {
-		list = append(list, n)
-	}
-	for i := 8; i < 63; i++ {
-		list = append(list, 1<<i-1, 1<<i, 1<<i+1, 1<<i+2, -1<<i, -1<<i+1)
-	}
-	return list
-}
 
 // goodFilters returns valid filters by their texts.
 func goodFilters() map[string]api.Filter {
@@ -81,7 +70,7 @@ func checkIs(t *testing.T, r api.Ref) {
 	} else if r.Filter != (api.Filter{}) {
 		others = false
 	}
-	for _, specs := range numbers() {
+	for _, specs := range probe.Numbers() {
 		want := others && r.N == 0
 		if usesN {
 			want = others && 1 <= r.N && r.N <= 4 && r.N <= specs
@@ -103,7 +92,7 @@ func TestIsOfFields(t *testing.T) {
 	}
 	for _, good := range list {
 		checkIs(t, good)
-		for _, n := range numbers() {
+		for _, n := range probe.Numbers() {
 			r := good
 			r.Kind = n
 			checkIs(t, r)
@@ -215,58 +204,30 @@ func parseChecker(t *testing.T) func(s string) {
 	}
 }
 
-// extend calls check with s followed by all sequences of up to left pieces.
-func extend(check func(s string), s string, left int, pieces []string) {
-	check(s)
-	if left == 0 {
-		return
-	}
-	for _, piece := range pieces {
-		extend(check, s+piece, left-1, pieces)
-	}
-}
-
 // P16.2: every text of up to four pieces of texts, and longer ones behind some beginnings.
 func TestParseOfPieces(t *testing.T) {
 	check := parseChecker(t)
 	pieces := []string{"you", "self", "target", "each", "opponents", "players", "it", "owner", "(", ")", "any", "yours", " ", "0", "1", "4", "5", "-", "s"}
-	extend(check, "", 4, pieces)
-	extend(check, "each(", 4, pieces)
-	extend(check, "each(any", 3, pieces)
+	probe.Extend(check, "", 4, pieces)
+	probe.Extend(check, "each(", 4, pieces)
+	probe.Extend(check, "each(any", 3, pieces)
 	for _, start := range []string{"target", "owner"} {
-		extend(check, start, 5, []string{"0", "1", "2", "4", "5", "-", "+", " "})
+		probe.Extend(check, start, 5, []string{"0", "1", "2", "4", "5", "-", "+", " "})
 	}
 }
 
 // P16.2: every text that differs in one place from that of a reference.
 func TestParseNearby(t *testing.T) {
 	check := parseChecker(t)
-	symbols := append(strings.Split("+ - , : = * / ( ) [ ] a e s t x X 0 1 2 4 5 9 . é \x00 \xff", " "), " ", "\n", "\t", "")
 	for text := range samples() {
-		check(strings.ToUpper(text))
-		check(text + text)
-		check(text + " " + text)
+		probe.Neighbours(check, text)
 		check("each(" + text + ")")
-		check("(" + text + ")")
-		for i := range len(text) + 1 {
-			check(text[:i])
-			check(text[i:])
-			for _, s := range symbols {
-				check(text[:i] + s + text[i:])
-				if i < len(text) {
-					check(text[:i] + s + text[i+1:])
-				}
-			}
-			if i+1 < len(text) {
-				check(text[:i] + text[i+1:i+2] + text[i:i+1] + text[i+2:])
-			}
-		}
 	}
 }
 
 func TestParseNumbers(t *testing.T) { // P16.2
 	check := parseChecker(t)
-	for _, n := range numbers() {
+	for _, n := range probe.Numbers() {
 		s := strconv.Itoa(n)
 		check(s)
 		for _, start := range []string{"target", "owner", "you", "self", "each", "it", "opponents", "players"} {
