@@ -49,26 +49,35 @@ func wipe(v reflect.Value) {
 	}
 }
 
-func filled() api.Traits {
-	var t api.Traits
-	fill(reflect.ValueOf(&t).Elem())
-	return t
+// filled returns the value with which fill fills a T.
+func filled[T any]() T {
+	var x T
+	fill(reflect.ValueOf(&x).Elem())
+	return x
 }
 
-// A copy is equal, and does not change with what it was copied from.
-func TestTraits(t *testing.T) {
-	original := filled()
-	result := Traits(original)
-	if !reflect.DeepEqual(result, filled()) {
+// checkCopy checks that a copy is equal, and does not change with what it was copied from.
+func checkCopy[T any](t *testing.T, copyOf func(x T) T) {
+	original := filled[T]()
+	result := copyOf(original)
+	if !reflect.DeepEqual(result, filled[T]()) {
 		t.Errorf("the copy of %v is %v", original, result)
 	}
 	wipe(reflect.ValueOf(&original).Elem())
-	if reflect.DeepEqual(original, filled()) {
+	if reflect.DeepEqual(original, filled[T]()) {
 		t.Fatal("wipe changes nothing")
 	}
-	if !reflect.DeepEqual(result, filled()) {
+	if !reflect.DeepEqual(result, filled[T]()) {
 		t.Errorf("the copy shares memory: %v", result)
 	}
+}
+
+func TestTraits(t *testing.T) {
+	checkCopy(t, Traits)
+}
+
+func TestState(t *testing.T) {
+	checkCopy(t, State)
 }
 
 func TestTraitsWithoutElements(t *testing.T) {
@@ -80,6 +89,21 @@ func TestTraitsWithoutElements(t *testing.T) {
 		{Abilities: []api.Ability{{Effects: []api.Effect{{}, {Mods: []api.Mod{}}}}}},
 	} {
 		if result := Traits(x); !reflect.DeepEqual(result, x) {
+			t.Errorf("the copy of %#v is %#v", x, result)
+		}
+	}
+}
+
+func TestStateWithoutElements(t *testing.T) {
+	for _, x := range []api.State{
+		{},
+		{Players: []api.Player{}, Objects: []api.Object{}, Battlefield: []int{}, Exile: []int{}, Stack: []api.Item{}},
+		{Waiting: []api.Waiting{}, Conts: []api.Cont{}, Extra: []int{}},
+		{Players: []api.Player{{}, {Library: []int{}, Hand: []int{}, Graveyard: []int{}}}},
+		{Stack: []api.Item{{}, {Targets: []api.Target{}, Ability: api.Ability{Mods: []api.Mod{}}}}},
+		{Waiting: []api.Waiting{{}, {Ability: api.Ability{Effects: []api.Effect{{}}}}}, Conts: []api.Cont{{}, {Objects: []int{}, Mods: []api.Mod{}}}},
+	} {
+		if result := State(x); !reflect.DeepEqual(result, x) {
 			t.Errorf("the copy of %#v is %#v", x, result)
 		}
 	}
